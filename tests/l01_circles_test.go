@@ -181,11 +181,11 @@ func TestPhasorSteps(t *testing.T) {
 // what the other program told.
 func TestManyNumbers(t *testing.T) {
 	all := manyBits(40000)
-	fold := func(what string, want int, tell func(a, b uint32) string) {
-		got := 0
+	fold := func(what string, want int64, tell func(a, b uint32) string) {
+		got := int64(0)
 		for i, a := range all {
 			for _, c := range []byte(tell(a, all[(i*7+3)%len(all)])) {
-				got = (got*31 + int(c)) % 1000000007
+				got = (got*31 + int64(c)) % 1000000007
 			}
 		}
 		if got != want {
