@@ -13,7 +13,7 @@ import (
 // zero values where it fails.
 
 // says tells the results of a function but the last one; those of one that
-// fails must be an empty list for a list, and 0 for a number.
+// fails must be an empty list for a list, false for a bool, and 0 for a number.
 func says(name string, ok bool, told ...any) outcome {
 	zero := make([]any, len(told))
 	for i, x := range told {
@@ -22,8 +22,14 @@ func says(name string, ok bool, told ...any) outcome {
 			zero[i] = []int64(nil)
 		case [][]int64:
 			zero[i] = [][]int64(nil)
+		case []bool:
+			zero[i] = []bool(nil)
+		case bool:
+			zero[i] = false
 		case impl.Net:
 			zero[i] = impl.Net{}
+		case impl.Form:
+			zero[i] = impl.Form{}
 		default:
 			zero[i] = 0
 		}
@@ -215,19 +221,11 @@ func allTold(n, loss impl.Net, flow, list, pairs, costs []int64) []told {
 	return slices
 }
 
-// TestResultsOfNetsShareNothing overwrites one slice of the results after
-// another, and the room behind it, and wants the arguments and all others
-// unchanged.
-func TestResultsOfNetsShareNothing(t *testing.T) {
-	n := exampleNet()
-	loss := netOf(2, arc(0, 1, 1, -3), arc(1, 0, 1, 2))
-	flow, list, pairs, costs := []int64{2, 2, 1}, []int64{0, 0}, []int64{0, 0, 0, 1, 1, 2, 2, 2}, []int64{1, 2, 2, 4}
-	all := allTold(n, loss, flow, list, pairs, costs)
-	arguments := func() string { return fmt.Sprint(n, loss, flow, list, pairs, costs) }
+// wantUnshared overwrites one slice of the results after another, and the room
+// behind it, and wants the arguments and all others unchanged.
+func wantUnshared(t *testing.T, all []told, arguments func() string) {
+	t.Helper()
 	was := arguments()
-	if len(all) != 22 {
-		t.Errorf("%d slices", len(all))
-	}
 	for i := range all {
 		if len(all[i].list) == 0 {
 			t.Errorf("%s has nothing to overwrite", all[i].name)
@@ -238,6 +236,19 @@ func TestResultsOfNetsShareNothing(t *testing.T) {
 		wantText(t, all[i].name, others(), before)
 	}
 	wantText(t, "the arguments", arguments(), was)
+}
+
+func TestResultsOfNetsShareNothing(t *testing.T) {
+	n := exampleNet()
+	loss := netOf(2, arc(0, 1, 1, -3), arc(1, 0, 1, 2))
+	flow, list, pairs, costs := []int64{2, 2, 1}, []int64{0, 0}, []int64{0, 0, 0, 1, 1, 2, 2, 2}, []int64{1, 2, 2, 4}
+	all := allTold(n, loss, flow, list, pairs, costs)
+	arguments := func() string { return fmt.Sprint(n, loss, flow, list, pairs, costs) }
+	was := arguments()
+	if len(all) != 22 {
+		t.Errorf("%d slices", len(all))
+	}
+	wantUnshared(t, all, arguments)
 	plain, _ := impl.PlainNet(n.Nodes, n.Arcs)
 	overwrite(plain.Arcs, arc(9, 9, 9, 9))
 	wantText(t, "PlainNet", arguments(), was)

@@ -183,24 +183,12 @@ func allToldOfTours(sizes, gains, sets, ways, around, across []int64) []told {
 	}
 }
 
-// TestResultsOfChapter4ShareNothing overwrites one slice of the results after
-// another, and the room behind it, and wants the arguments and all others
-// unchanged.
 func TestResultsOfChapter4ShareNothing(t *testing.T) {
 	sizes, gains, sets, ways, around, across := ints(2, 3, 4), ints(3, 4, 5), ints(1, 2, 4, 6), kite(), ints(0, 1, 3, 2), ints(0, 1, 2, 3)
 	call := func() []told { return allToldOfTours(sizes, gains, sets, ways, around, across) }
 	all := call()
 	arguments := func() string { return fmt.Sprint(sizes, gains, sets, ways, around, across) }
-	was, first := arguments(), fmt.Sprint(all)
-	for i := range all {
-		if len(all[i].list) == 0 {
-			t.Errorf("%s has nothing to overwrite", all[i].name)
-		}
-		others := func() string { return fmt.Sprint(all[:i], all[i+1:]) }
-		before := others()
-		overwrite(all[i].list, 99)
-		wantText(t, all[i].name, others(), before)
-	}
-	wantText(t, "the arguments", arguments(), was)
+	first := fmt.Sprint(all)
+	wantUnshared(t, all, arguments)
 	wantText(t, "results of the same again", fmt.Sprint(call()), first)
 }
